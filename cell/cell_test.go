@@ -342,6 +342,8 @@ func TestDecodeWrong(t *testing.T) {
 		{"4096 cells", "\x03\xff\x1f" + strings.Repeat("\x01\x00", 4095), api.OK},
 		{"4097 cells", "\x03\x80\x20" + strings.Repeat("\x01\x00", 4096), api.ErrText},
 		{"4097 cells in lists", "\x03\x02\x03\xff\x0f" + strings.Repeat("\x01\x00", 2047) + "\x03\xff\x0f" + strings.Repeat("\x01\x00", 2047), api.ErrText},
+		{"4096 cells, the last behind a list", "\x03\x02\x03\xfd\x1f" + strings.Repeat("\x01\x00", 4093) + "\x01\x00", api.OK},
+		{"4097 cells, the last behind a list", "\x03\x02\x03\xfe\x1f" + strings.Repeat("\x01\x00", 4094) + "\x01\x00", api.ErrText},
 		{"65536 bytes", "\x02\xfc\xff\x03" + strings.Repeat("a", 65532), api.OK},
 		{"65537 bytes", "\x02\xfd\xff\x03" + strings.Repeat("a", 65533), api.ErrLong},
 		{"65536 bytes of no cell", strings.Repeat("a", 65536), api.ErrText},
